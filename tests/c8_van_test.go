@@ -127,6 +127,22 @@ func differentIn(numbers []int) int {
 	return len(slices.Compact(slices.Sorted(slices.Values(numbers))))
 }
 
+// checkFresh asks for numbers again and again, writes over what comes, and fails if this is seen in another result.
+func checkFresh(t *testing.T, what string, ask func() []int, want []int) {
+	t.Helper()
+	first := ask()
+	for range 2 {
+		got := ask()
+		if !slices.Equal(got, want) {
+			t.Fatalf("%s keeps what was done to its result: %v", what, got)
+		}
+		spoil(got)
+	}
+	if !slices.Equal(first, want) {
+		t.Fatalf("%s: what was done to another result made the first one %v", what, first)
+	}
+}
+
 func TestLimitOfVans(t *testing.T) {
 	if impl.MaxLetters != 9 {
 		t.Error("the limit of chapter 8 is not that of the document")
@@ -566,18 +582,8 @@ func TestParcelsAreNotChangedNorKept(t *testing.T) {
 	}{
 		{"StacksOf", impl.StacksOf, []int{0, 0, 1, 1}}, {"RisingRow", impl.RisingRow, []int{0, 1}}, {"OneStack", impl.OneStack, []int{0, 2, 1, 3}},
 	} {
-		first := c.ask(row)
-		for range 2 {
-			got := c.ask(row)
-			if !slices.Equal(got, c.want) {
-				t.Fatalf("%s keeps what was done to its result: %v", c.what, got)
-			}
-			spoil(got)
-			unchanged(c.what)
-		}
-		if !slices.Equal(first, c.want) {
-			t.Fatalf("%s: what was done to another result made the first one %v", c.what, first)
-		}
+		checkFresh(t, c.what, func() []int { return c.ask(row) }, c.want)
+		unchanged(c.what)
 	}
 	// Rows in order are their own results, and yet not the same memory.
 	for n := 1; n <= 9; n++ {
