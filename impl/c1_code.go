@@ -160,18 +160,27 @@ func onlyDigits(s string) bool {
 	return true
 }
 
-// splitCode returns the digits and the check that a text has, whether they belong together or not.
-func splitCode(s string) (fourDigits, int, bool) {
-	if len(s) != CodeDigits+2 || s[CodeDigits] != '-' || !onlyDigits(s[:CodeDigits]) {
-		return fourDigits{}, 0, false
-	}
-	check := strings.IndexByte(checkSigns, s[CodeDigits+1])
-	if check < 0 {
-		return fourDigits{}, 0, false
+// readDigits returns the digits of a text of CodeDigits digits alone, and whether it is one.
+func readDigits(s string) (fourDigits, bool) {
+	if len(s) != CodeDigits || !onlyDigits(s) {
+		return fourDigits{}, false
 	}
 	var d fourDigits
-	for i, r := range s[:CodeDigits] {
+	for i, r := range s {
 		d[i] = int(r - '0')
+	}
+	return d, true
+}
+
+// splitCode returns the digits and the check that a text has, whether they belong together or not.
+func splitCode(s string) (fourDigits, int, bool) {
+	if len(s) != CodeDigits+2 || s[CodeDigits] != '-' {
+		return fourDigits{}, 0, false
+	}
+	d, ok := readDigits(s[:CodeDigits])
+	check := strings.IndexByte(checkSigns, s[CodeDigits+1])
+	if !ok || check < 0 {
+		return fourDigits{}, 0, false
 	}
 	return d, check, true
 }
